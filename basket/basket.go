@@ -10,7 +10,8 @@ import (
 
 // World is some nodes, and what is on its way.
 type World struct {
-	nodes []node
+	nodes  []node
+	flying []message // in the order in which they were sent
 }
 
 // New makes a world (P3).
@@ -103,19 +104,64 @@ func (w *World) Status(node int) (api.Status, api.Errno) {
 }
 
 // Send sends what is new (P6).
-func (w *World) Send(from int, to int) api.Errno { return api.OK }
+func (w *World) Send(from int, to int) api.Errno {
+	sender := w.at(from)
+	if sender == nil || w.at(to) == nil || from == to {
+		return api.ErrArg
+	}
+	if !sender.hasNewsFor(to) {
+		return api.ErrNone
+	}
+	w.launch(message{
+		kind:   newsKind,
+		from:   from,
+		to:     to,
+		number: sender.count,
+		piece:  sender.newsFor(to),
+	})
+	return api.OK
+}
 
 // Flying tells what is on its way (P7).
-func (w *World) Flying() []api.Message { return nil }
+func (w *World) Flying() []api.Message {
+	if w == nil {
+		return nil
+	}
+	var told []api.Message
+	for _, m := range w.flying {
+		told = append(told, m.told())
+	}
+	return told
+}
 
 // Deliver lets a message come (P7).
-func (w *World) Deliver(i int) api.Errno { return api.OK }
+func (w *World) Deliver(i int) api.Errno {
+	if !w.isFlying(i) {
+		return api.ErrNone
+	}
+	m := w.flying[i]
+	w.land(i)
+	w.come(m)
+	return api.OK
+}
 
 // Drop loses a message (P7).
-func (w *World) Drop(i int) api.Errno { return api.OK }
+func (w *World) Drop(i int) api.Errno {
+	if !w.isFlying(i) {
+		return api.ErrNone
+	}
+	w.land(i)
+	return api.OK
+}
 
 // Double doubles a message (P7).
-func (w *World) Double(i int) api.Errno { return api.OK }
+func (w *World) Double(i int) api.Errno {
+	if !w.isFlying(i) {
+		return api.ErrNone
+	}
+	w.launch(w.flying[i])
+	return api.OK
+}
 
 // Collect lets a node forget what all have got (P8).
 func (w *World) Collect(node int) api.Errno { return api.OK }
@@ -133,6 +179,36 @@ func (w *World) at(number int) *node {
 		return nil
 	}
 	return &w.nodes[number]
+}
+
+// isFlying bears a nil world, as at does.
+func (w *World) isFlying(i int) bool {
+	return w != nil && i >= 0 && i < len(w.flying)
+}
+
+// launch sends a message on its way; when too many are flying it is lost, and
+// its sender hears nothing of that.
+func (w *World) launch(m message) {
+	if len(w.flying) < api.MaxFlying {
+		w.flying = append(w.flying, m)
+	}
+}
+
+// land takes a message out of those that are flying.
+func (w *World) land(i int) {
+	w.flying = slices.Delete(w.flying, i, i+1)
+}
+
+// come lets a message that has landed do its work.
+func (w *World) come(m message) {
+	receiver := &w.nodes[m.to]
+	switch m.kind {
+	case newsKind:
+		receiver.hear(m.piece)
+		w.launch(m.ack())
+	case ackKind:
+		receiver.hearAck(m.from, m.number)
+	}
 }
 
 // adds counts the Adds of the world.

@@ -61,7 +61,7 @@ func wantStatus(t *testing.T, w *basket.World, node int, status string) {
 	}
 }
 
-// told is all that a world tells of its nodes.
+// told is all that a world tells.
 func told(w *basket.World) string {
 	var all strings.Builder
 	for n := range api.MaxNodes {
@@ -70,6 +70,7 @@ func told(w *basket.World) string {
 		status, g := w.Status(n)
 		fmt.Fprintf(&all, "%d: %q %d %q %d %v %d\n", n, items, e, text, f, status, g)
 	}
+	fmt.Fprintf(&all, "%v\n", w.Flying())
 	return all.String()
 }
 
@@ -83,11 +84,14 @@ func TestP1NoCallPanics(t *testing.T) {
 				w.Add(n, name)
 			}
 			w.Clear(n)
+			w.Add(n, "tea")
 			w.Items(n)
 			w.Text(n)
 			w.Status(n)
-			w.Send(n, 0)
-			w.Send(0, n)
+			for range api.MaxFlying / 2 {
+				w.Send(n, 0)
+				w.Send(0, n)
+			}
 			w.Flying()
 			w.Double(n)
 			w.Drop(n)
@@ -104,7 +108,11 @@ func TestP1WhatNewRefusedHasNoNode(t *testing.T) {
 	_, e := w.Items(0)
 	_, f := w.Text(0)
 	_, g := w.Status(0)
-	want(t, "P1: no world", api.ErrArg, w.Add(0, "tea"), w.Remove(0, "tea"), w.Clear(0), e, f, g)
+	want(t, "P1: no world", api.ErrArg, w.Add(0, "tea"), w.Remove(0, "tea"), w.Clear(0), w.Send(0, 1), e, f, g)
+	want(t, "P1: no world", api.ErrNone, w.Deliver(0), w.Drop(0), w.Double(0))
+	if flying := w.Flying(); len(flying) != 0 {
+		t.Errorf("P1: no world, and flying %v", flying)
+	}
 }
 
 func TestP1NodeThatIsNoneComesFirst(t *testing.T) {
@@ -119,7 +127,8 @@ func TestP1NodeThatIsNoneComesFirst(t *testing.T) {
 			text, f := w.Text(n)
 			status, g := w.Status(n)
 			want(t, fmt.Sprintf("P1: node %d of %d", n, nodes), api.ErrArg,
-				w.Add(n, "tea"), w.Add(n, "Tea"), w.Remove(n, "tea"), w.Remove(n, "rum"), w.Remove(n, ""), w.Clear(n), e, f, g)
+				w.Add(n, "tea"), w.Add(n, "Tea"), w.Remove(n, "tea"), w.Remove(n, "rum"), w.Remove(n, ""), w.Clear(n), e, f, g,
+				w.Send(n, 0), w.Send(0, n), w.Send(n, n))
 			if len(items) != 0 || text != "" || status.Count != 0 || len(status.Kept)+len(status.Acked)+len(status.Tokens) != 0 {
 				t.Errorf("P1: beside an error: %q, %q, %v", items, text, status)
 			}
@@ -212,13 +221,19 @@ func TestP2AnEarlierAnswerStays(t *testing.T) {
 // step is one of many calls, chosen by a number.
 func step(w *basket.World, nodes, i int) api.Errno {
 	node, name := i/7%nodes, string(rune('a'+i*i%5))
-	switch i % 7 {
-	case 0, 2, 3, 5:
+	switch i % 11 {
+	case 0, 2, 5:
 		return w.Add(node, name)
+	case 3, 4, 9:
+		return w.Send(node, i/3%nodes)
 	case 6:
 		if i%5 == 0 {
 			return w.Clear(node)
 		}
+	case 7:
+		return w.Double(i % 5)
+	case 8, 10:
+		return w.Deliver(i % 3)
 	}
 	return w.Remove(node, name)
 }

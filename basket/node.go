@@ -35,6 +35,40 @@ func (n *node) takeOut(entries []piece.Entry) api.Errno {
 	return api.OK
 }
 
+// hear takes in a piece that another node told. One that tells nothing new is
+// no news: it would be told on for ever.
+func (n *node) hear(news piece.Piece) {
+	if !piece.Equal(piece.Join(n.basket, news), n.basket) {
+		n.takeIn(news)
+	}
+}
+
+// hearAck notes up to which number another node has got all. A late one, with a
+// lesser number than that node's last, tells nothing.
+func (n *node) hearAck(from, number int) {
+	n.acked[from] = max(n.acked[from], number)
+}
+
+func (n *node) hasNewsFor(to int) bool {
+	return n.acked[to] < n.count
+}
+
+// newsFor joins what another node has not acked. Where some of that is kept no
+// longer, only the whole basket is sure to have it.
+func (n *node) newsFor(to int) piece.Piece {
+	acked := n.acked[to]
+	if len(n.kept) == 0 || n.kept[0].number > acked {
+		return n.basket
+	}
+	var news piece.Piece
+	for _, kept := range n.kept {
+		if kept.number >= acked {
+			news = piece.Join(news, kept.piece)
+		}
+	}
+	return news
+}
+
 func (n *node) keptNumbers() []int {
 	var numbers []int
 	for _, kept := range n.kept {

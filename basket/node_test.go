@@ -120,3 +120,71 @@ func TestTokensOfOthersAreNoAdds(t *testing.T) {
 		t.Errorf("P4: the token of node 0's first Add: %v", got)
 	}
 }
+
+func TestKindsAreThoseOfPackageApi(t *testing.T) {
+	if newsKind != api.News || ackKind != api.Ack {
+		t.Errorf("the kinds are %d and %d, want %d and %d", newsKind, ackKind, api.News, api.Ack)
+	}
+}
+
+// forgetful is a world where node 0 keeps only its pieces from a number on.
+func forgetful(from int) *World {
+	w, _ := New(2)
+	w.Add(0, "tea")
+	w.Add(0, "rum")
+	w.Remove(0, "tea")
+	w.Add(0, "gin")
+	w.nodes[0].kept = w.nodes[0].kept[from:]
+	return w
+}
+
+func TestWhichPieceIsSent(t *testing.T) {
+	whole := "gin:0.3 rum:0.2 | 0.1 0.2 0.3"
+	cases := []struct {
+		what        string
+		from, acked int
+		want        string
+	}{
+		{"all is kept, nothing acked", 0, 0, whole},
+		{"all is kept, some acked", 0, 2, "gin:0.3 | 0.1 0.3"},
+		{"what is kept goes back to what was acked", 2, 2, "gin:0.3 | 0.1 0.3"},
+		{"what is kept goes back further", 1, 3, "gin:0.3 | 0.3"},
+		{"the last piece alone", 3, 3, "gin:0.3 | 0.3"},
+		{"what is kept begins one behind what was acked", 3, 2, whole},
+		{"what is kept begins behind nothing acked", 1, 0, whole},
+		{"nothing is kept, nothing acked", 4, 0, whole},
+		{"nothing is kept, some acked", 4, 3, whole},
+	}
+	for _, c := range cases {
+		w := forgetful(c.from)
+		w.nodes[0].acked[1] = c.acked
+		if e := w.Send(0, 1); e != api.OK {
+			t.Errorf("P6: %s: Send: %d", c.what, e)
+		}
+		want := []api.Message{{Kind: api.News, From: 0, To: 1, Number: 4, Text: c.want}}
+		if got := w.Flying(); !slices.Equal(got, want) {
+			t.Errorf("P6: %s: flying %v, want %v", c.what, got, want)
+		}
+	}
+}
+
+func TestNothingIsSentToWhoAckedAll(t *testing.T) {
+	for from := range 5 {
+		w := forgetful(from)
+		w.nodes[0].acked[1] = 4
+		if e := w.Send(0, 1); e != api.ErrNone || len(w.Flying()) != 0 {
+			t.Errorf("P6: Send: %d, flying %v", e, w.Flying())
+		}
+	}
+}
+
+func TestHeardPiecesAreKeptAsTheyCame(t *testing.T) {
+	w, _ := New(2)
+	w.Add(0, "tea")
+	w.Send(0, 1)
+	w.Add(0, "rum")
+	w.Send(0, 1)
+	w.Deliver(0)
+	w.Deliver(0)
+	wantKept(t, w, 1, "tea:0.1 | 0.1", "rum:0.2 tea:0.1 | 0.1 0.2")
+}

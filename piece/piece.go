@@ -72,6 +72,11 @@ func (p Piece) takeOver(from, other Piece) {
 	}
 }
 
+// Equal says whether two pieces have the same entries and know the same tokens.
+func Equal(a, b Piece) bool {
+	return maps.Equal(a.entries, b.entries) && maps.Equal(a.known, b.known)
+}
+
 // Entries lists the entries by names, then by tokens.
 func (p Piece) Entries() []Entry {
 	return slices.SortedFunc(maps.Keys(p.entries), compareEntries)

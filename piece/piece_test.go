@@ -82,6 +82,25 @@ func TestJoinChangesNeitherPiece(t *testing.T) {
 	wantText(t, b, "rum:1.1 | 0.1 1.1")
 }
 
+func TestEqual(t *testing.T) {
+	tea, gone := put("tea", 0, 1), Taking([]Entry{entry("tea", 0, 1)})
+	pieces := []Piece{{}, tea, gone, put("rum", 0, 1), put("tea", 0, 2), put("tea", 1, 1), joined(tea, put("rum", 1, 1)),
+		Putting(entry("tea", 0, 1), []Entry{entry("tea", 0, 2)})}
+	for i, a := range pieces {
+		for k, b := range pieces {
+			if got := Equal(a, b); got != (i == k) {
+				t.Errorf("Equal of %q and %q: %v", a.Text(), b.Text(), got)
+			}
+		}
+		if !Equal(a, joined(a, a)) {
+			t.Errorf("%q is not equal to itself made anew", a.Text())
+		}
+	}
+	if !Equal(Piece{}, Taking(nil)) {
+		t.Error("two empty pieces are not equal")
+	}
+}
+
 func TestLists(t *testing.T) {
 	p := joined(put("tea", 1, 1), put("rum", 0, 2), put("tea", 0, 1), Taking([]Entry{entry("gin", 1, 3)}))
 	wantEntries := []Entry{entry("rum", 0, 2), entry("tea", 0, 1), entry("tea", 1, 1)}
