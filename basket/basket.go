@@ -89,8 +89,6 @@ func (w *World) Status(node int) (api.Status, api.Errno) {
 	if n == nil {
 		return api.Status{}, api.ErrArg
 	}
-	acked := slices.Clone(n.acked)
-	acked[node] = n.count
 	tokens := make([]int, len(w.nodes))
 	for i := range tokens {
 		tokens[i] = n.basket.KnownOf(i)
@@ -98,7 +96,7 @@ func (w *World) Status(node int) (api.Status, api.Errno) {
 	return api.Status{
 		Count:  n.count,
 		Kept:   n.keptNumbers(),
-		Acked:  acked,
+		Acked:  w.ackedOf(node),
 		Tokens: tokens,
 	}, api.OK
 }
@@ -112,13 +110,7 @@ func (w *World) Send(from int, to int) api.Errno {
 	if !sender.hasNewsFor(to) {
 		return api.ErrNone
 	}
-	w.launch(message{
-		kind:   newsKind,
-		from:   from,
-		to:     to,
-		number: sender.count,
-		piece:  sender.newsFor(to),
-	})
+	w.launch(w.news(from, to))
 	return api.OK
 }
 
@@ -142,6 +134,9 @@ func (w *World) Deliver(i int) api.Errno {
 	m := w.flying[i]
 	w.land(i)
 	w.come(m)
+	if m.kind == newsKind {
+		w.launch(m.ack())
+	}
 	return api.OK
 }
 
@@ -164,13 +159,40 @@ func (w *World) Double(i int) api.Errno {
 }
 
 // Collect lets a node forget what all have got (P8).
-func (w *World) Collect(node int) api.Errno { return api.OK }
+func (w *World) Collect(node int) api.Errno {
+	n := w.at(node)
+	if n == nil {
+		return api.ErrArg
+	}
+	n.forgetBelow(slices.Min(w.ackedOf(node)))
+	return api.OK
+}
 
 // Crash lets a node crash (P8).
-func (w *World) Crash(node int) api.Errno { return api.OK }
+func (w *World) Crash(node int) api.Errno {
+	n := w.at(node)
+	if n == nil {
+		return api.ErrArg
+	}
+	n.crash()
+	return api.OK
+}
 
 // Round lets all tell each other what is new (P9).
-func (w *World) Round() int { return 0 }
+func (w *World) Round() int {
+	if w == nil {
+		return 0
+	}
+	came := 0
+	for from := range w.nodes {
+		for _, m := range w.gather(from) {
+			w.come(m)
+			w.come(m.ack())
+			came++
+		}
+	}
+	return came
+}
 
 // at finds a node; nil says that there is none of this number. It bears a nil
 // world too, for that is what New gives beside an error.
@@ -186,6 +208,27 @@ func (w *World) isFlying(i int) bool {
 	return w != nil && i >= 0 && i < len(w.flying)
 }
 
+// ackedOf lists up to which number each node has acked a node's news. The node
+// itself stands there with all of it, so it never holds back what may go.
+func (w *World) ackedOf(node int) []int {
+	n := &w.nodes[node]
+	acked := slices.Clone(n.acked)
+	acked[node] = n.count
+	return acked
+}
+
+// news makes the message that tells one node what another one has new for it.
+func (w *World) news(from, to int) message {
+	sender := &w.nodes[from]
+	return message{
+		kind:   newsKind,
+		from:   from,
+		to:     to,
+		number: sender.count,
+		piece:  sender.newsFor(to),
+	}
+}
+
 // launch sends a message on its way; when too many are flying it is lost, and
 // its sender hears nothing of that.
 func (w *World) launch(m message) {
@@ -199,13 +242,13 @@ func (w *World) land(i int) {
 	w.flying = slices.Delete(w.flying, i, i+1)
 }
 
-// come lets a message that has landed do its work.
+// come lets a message that has landed do its work. The ack that news asks for
+// is the caller's to send, for not every one flies.
 func (w *World) come(m message) {
 	receiver := &w.nodes[m.to]
 	switch m.kind {
 	case newsKind:
 		receiver.hear(m.piece)
-		w.launch(m.ack())
 	case ackKind:
 		receiver.hearAck(m.from, m.number)
 	}

@@ -96,8 +96,12 @@ func TestP1NoCallPanics(t *testing.T) {
 			w.Double(n)
 			w.Drop(n)
 			w.Deliver(n)
+			w.Round()
 			w.Collect(n)
+			w.Send(n, 0)
+			w.Add(n, "tea")
 			w.Crash(n)
+			w.Send(n, 0)
 			w.Round()
 		}
 	}
@@ -108,11 +112,13 @@ func TestP1WhatNewRefusedHasNoNode(t *testing.T) {
 	_, e := w.Items(0)
 	_, f := w.Text(0)
 	_, g := w.Status(0)
-	want(t, "P1: no world", api.ErrArg, w.Add(0, "tea"), w.Remove(0, "tea"), w.Clear(0), w.Send(0, 1), e, f, g)
+	want(t, "P1: no world", api.ErrArg, w.Add(0, "tea"), w.Remove(0, "tea"), w.Clear(0), w.Send(0, 1), e, f, g,
+		w.Collect(0), w.Crash(0))
 	want(t, "P1: no world", api.ErrNone, w.Deliver(0), w.Drop(0), w.Double(0))
 	if flying := w.Flying(); len(flying) != 0 {
 		t.Errorf("P1: no world, and flying %v", flying)
 	}
+	wantRound(t, w, 0)
 }
 
 func TestP1NodeThatIsNoneComesFirst(t *testing.T) {
@@ -128,7 +134,7 @@ func TestP1NodeThatIsNoneComesFirst(t *testing.T) {
 			status, g := w.Status(n)
 			want(t, fmt.Sprintf("P1: node %d of %d", n, nodes), api.ErrArg,
 				w.Add(n, "tea"), w.Add(n, "Tea"), w.Remove(n, "tea"), w.Remove(n, "rum"), w.Remove(n, ""), w.Clear(n), e, f, g,
-				w.Send(n, 0), w.Send(0, n), w.Send(n, n))
+				w.Send(n, 0), w.Send(0, n), w.Send(n, n), w.Collect(n), w.Crash(n))
 			if len(items) != 0 || text != "" || status.Count != 0 || len(status.Kept)+len(status.Acked)+len(status.Tokens) != 0 {
 				t.Errorf("P1: beside an error: %q, %q, %v", items, text, status)
 			}
@@ -232,8 +238,18 @@ func step(w *basket.World, nodes, i int) api.Errno {
 		}
 	case 7:
 		return w.Double(i % 5)
-	case 8, 10:
+	case 8:
 		return w.Deliver(i % 3)
+	case 10:
+		switch i % 4 {
+		case 0:
+			return w.Collect(node)
+		case 1:
+			return w.Crash(node)
+		case 2:
+			return api.Errno(w.Round())
+		}
+		return w.Deliver(i % 2)
 	}
 	return w.Remove(node, name)
 }

@@ -21,7 +21,8 @@ type plain map[mark]string
 
 type plainNode struct {
 	basket plain
-	news   []plain // all that it ever had, for it forgets none yet
+	news   []plain // all that it ever had
+	kept   int     // from which number on it keeps them
 	acked  []int
 }
 
@@ -131,9 +132,49 @@ func (m *model) send(from, to int) api.Errno {
 	if n.acked[to] == len(n.news) {
 		return api.ErrNone
 	}
-	p := joinPlain(n.news[n.acked[to]:]...)
+	p := n.basket
+	if n.kept < len(n.news) && n.kept <= n.acked[to] {
+		p = joinPlain(n.news[n.acked[to]:]...)
+	}
 	m.launch(plainMessage{api.Message{Kind: 1, From: from, To: to, Number: len(n.news), Text: p.text()}, p})
 	return api.OK
+}
+
+func (m *model) collect(node int) api.Errno {
+	n := &m.nodes[node]
+	all := len(n.news)
+	for other, acked := range n.acked {
+		if other != node {
+			all = min(all, acked)
+		}
+	}
+	n.kept = max(n.kept, all)
+	return api.OK
+}
+
+func (m *model) crash(node int) api.Errno {
+	n := &m.nodes[node]
+	n.kept = len(n.news)
+	n.acked = make([]int, len(m.nodes))
+	return api.OK
+}
+
+// round sends each message and lets it and its ack come, with nothing else
+// flying.
+func (m *model) round() int {
+	flying, came := m.flying, 0
+	for from := range m.nodes {
+		for to := range m.nodes {
+			m.flying = nil
+			if m.send(from, to) == api.OK {
+				m.deliver(0)
+				m.deliver(0)
+				came++
+			}
+		}
+	}
+	m.flying = flying
+	return came
 }
 
 func (m *model) deliver(i int) api.Errno {
@@ -176,7 +217,7 @@ func (m *model) told() string {
 	for n, node := range m.nodes {
 		status := api.Status{Count: len(node.news), Acked: slices.Clone(node.acked), Tokens: make([]int, len(m.nodes))}
 		status.Acked[n] = len(node.news)
-		for i := range node.news {
+		for i := node.kept; i < len(node.news); i++ {
 			status.Kept = append(status.Kept, i)
 		}
 		var names []string
@@ -208,13 +249,19 @@ func (d *dice) below(n int) int {
 	return int(uint64(*d>>33) % uint64(n))
 }
 
-// walk makes one call on the world and on the model; often is how many of 20
-// calls let something land.
-func walk(d *dice, w *basket.World, m *model, often int) (call string, got, wanted api.Errno) {
+// walk makes one call on the world and on the model; often is how many of 24
+// calls let something land. It tells the call and what both answered.
+func walk(d *dice, w *basket.World, m *model, often int) (call string, got, wanted any) {
 	node, other, name := d.below(len(m.nodes)), d.below(len(m.nodes)), string(rune('a'+d.below(4)))
 	i := d.below(len(m.flying) + 1)
-	choice := d.below(20)
+	choice := d.below(24)
 	switch {
+	case choice == 23:
+		return fmt.Sprintf("Crash(%d)", node), w.Crash(node), m.crash(node)
+	case choice >= 21:
+		return fmt.Sprintf("Collect(%d)", node), w.Collect(node), m.collect(node)
+	case choice == 20 && d.below(3) == 0:
+		return "Round()", w.Round(), m.round()
 	case choice < often:
 		return fmt.Sprintf("Deliver(%d)", i), w.Deliver(i), m.deliver(i)
 	case choice < 12:
@@ -241,7 +288,7 @@ func TestWalksAgainstTheModel(t *testing.T) {
 			call, got, wanted := walk(&d, w, m, 3+seed%7)
 			calls = append(calls, call)
 			if got != wanted {
-				t.Fatalf("%d nodes, behind %q: answers %d, want %d", nodes, calls, got, wanted)
+				t.Fatalf("%d nodes, behind %q: answers %v, want %v", nodes, calls, got, wanted)
 			}
 			if got, want := told(w), m.told(); got != want {
 				t.Fatalf("%d nodes, behind %q:\n%swant\n%s", nodes, calls, got, want)

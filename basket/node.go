@@ -1,6 +1,8 @@
 package basket
 
 import (
+	"slices"
+
 	"basket/api"
 	"basket/piece"
 )
@@ -67,6 +69,20 @@ func (n *node) newsFor(to int) piece.Piece {
 		}
 	}
 	return news
+}
+
+// forgetBelow keeps the pieces below a number no longer.
+func (n *node) forgetBelow(number int) {
+	n.kept = slices.DeleteFunc(n.kept, func(kept keptPiece) bool {
+		return kept.number < number
+	})
+}
+
+// crash forgets what was to be told and who has been told. The count stays: it
+// numbers the news, and acks of before the crash may still come.
+func (n *node) crash() {
+	n.kept = nil
+	clear(n.acked)
 }
 
 func (n *node) keptNumbers() []int {

@@ -2,6 +2,7 @@ package basket
 
 import (
 	"slices"
+	"strconv"
 	"testing"
 
 	"basket/api"
@@ -187,4 +188,26 @@ func TestHeardPiecesAreKeptAsTheyCame(t *testing.T) {
 	w.Deliver(0)
 	w.Deliver(0)
 	wantKept(t, w, 1, "tea:0.1 | 0.1", "rum:0.2 tea:0.1 | 0.1 0.2")
+}
+
+func TestGatheredIsInTheOrderOfTheNodes(t *testing.T) {
+	w, _ := New(5)
+	w.Add(2, "tea")
+	w.Add(2, "rum")
+	w.nodes[2].acked[1] = 1
+	w.nodes[2].acked[3] = 2
+	want := []string{"0 rum:2.2 tea:2.1 | 2.1 2.2", "1 rum:2.2 | 2.2", "4 rum:2.2 tea:2.1 | 2.1 2.2"}
+	var got []string
+	for _, m := range w.gather(2) {
+		got = append(got, strconv.Itoa(m.to)+" "+m.text())
+		if m.kind != newsKind || m.from != 2 || m.number != 2 {
+			t.Errorf("P9: gathered %v", m)
+		}
+	}
+	if !slices.Equal(got, want) {
+		t.Errorf("P9: gathered %q, want %q", got, want)
+	}
+	if got := w.gather(0); len(got) != 0 {
+		t.Errorf("P9: gathered %v of a node without news", got)
+	}
 }
